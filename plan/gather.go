@@ -84,7 +84,7 @@ func (p *plan) rename(path, other string) {
 	gone := p.leave(path, entry)
 	n := p.inode(ino)
 	n.Links--
-	p.links(ino, n, links, gone)
+	p.links(ino, n, links, entry, gone)
 }
 
 // remove takes a path away; what no path leads to then is free.

@@ -194,12 +194,12 @@ func TestPlanOfLink(t *testing.T) {
 // P12.1
 func TestPlanOfRename(t *testing.T) {
 	img := some(t)
-	plans(t, img, api.Op{Kind: api.Rename, Path: "/a", Other: "/n"}, item(4, 1, "\x04"), item(11, 0, filled("\x02n", 8), 0), item(12, 16, zeros(8), 1), item(4, 1, "\x03", 0, 2))
-	plans(t, img, api.Op{Kind: api.Rename, Path: "/d/b", Other: "/x/b"}, item(4, 1, "\x04"), item(20, 0, filled("\x02b", 8), 0), item(15, 16, zeros(8), 1), item(4, 1, "\x03", 0, 2))
+	plans(t, img, api.Op{Kind: api.Rename, Path: "/a", Other: "/n"}, item(4, 1, "\x04"), item(11, 0, filled("\x02n", 8), 0), item(12, 16, zeros(8), 1), item(4, 1, "\x03", 0, 1, 2))
+	plans(t, img, api.Op{Kind: api.Rename, Path: "/d/b", Other: "/x/b"}, item(4, 1, "\x04"), item(20, 0, filled("\x02b", 8), 0), item(15, 16, zeros(8), 1), item(4, 1, "\x03", 0, 1, 2))
 	// The place is looked for while the old entry stands.
 	plans(t, img, api.Op{Kind: api.Rename, Path: "/d/full/k2", Other: "/d/full/n"},
 		item(5, 17, "\x05"), item(2, 2, "\xff"), item(22, 0, zeros(32), 1), item(5, 2, filled("\x00\x00\x00\x00\x00\x00\x10\x16", 14), 1, 2), item(22, 0, filled("\x05n", 8), 0, 2),
-		item(16, 16, zeros(8), 4), item(5, 17, "\x04", 0, 5))
+		item(16, 16, zeros(8), 4), item(5, 17, "\x04", 0, 4, 5))
 }
 
 // P12.2

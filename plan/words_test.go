@@ -213,7 +213,7 @@ func planByWords(img [][]byte, o api.Op) ([]api.Item, bool) {
 		more := h.part(ino, 1, string([]byte{links + 1}))
 		entry := h.entry(other, called, ino, more)
 		if o.Kind == api.Rename && !h.full {
-			h.part(ino, 1, string([]byte{links}), more, h.gone(dir, name, entry))
+			h.part(ino, 1, string([]byte{links}), more, entry, h.gone(dir, name, entry))
 		}
 	case api.Unlink, api.Rmdir:
 		h.remove(ino, dir, name)
